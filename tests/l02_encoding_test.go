@@ -38,13 +38,13 @@ var varints = []struct {
 
 var outOfRange = []int{-1, -127, -128, -300, impl.MaxValue + 1, 1 << 42, math.MaxInt, math.MinInt, -impl.MaxValue}
 
-// roomy returns a slice with the bytes of b and, behind its end, spare room
+// roomy returns a slice with the elements of b and, behind its end, spare room
 // filled with marks, and a function that reports whether all of it is as it
 // was.
-func roomy(b []byte) ([]byte, func() bool) {
-	whole := append(slices.Clone(b), bytes.Repeat([]byte{99}, 64)...)
+func roomy[T byte | int](b []T) ([]T, func() bool) {
+	whole := append(slices.Clone(b), slices.Repeat([]T{99}, 64)...)
 	before := slices.Clone(whole)
-	return whole[:len(b)], func() bool { return bytes.Equal(whole, before) }
+	return whole[:len(b)], func() bool { return slices.Equal(whole, before) }
 }
 
 // sharesMemory reports whether a change of one slice, spare room included,
