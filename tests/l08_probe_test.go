@@ -505,13 +505,18 @@ func TestSeenLinks(t *testing.T) {
 		{[][]int{{5}, {4}, {3}, {2}, {1}, {0}}, []int{0, 1, 2, 3, 4, 5}},
 		{[][]int{{5, 4, 3, 2, 1, 0}}, []int{0, 1, 2, 3, 4, 5}},
 		{[][]int{{4, 1}, {5, 0}}, []int{0, 1, 4, 5}},
-		// indices that are negative or beyond every link
-		{[][]int{{-1}}, nil},
-		{[][]int{{6}}, nil},
-		{[][]int{{-1, 0, 6}, {5, 7}}, []int{0, 5}},
-		{[][]int{{math.MinInt, 2}, {math.MaxInt, 4}}, []int{2, 4}},
-		{[][]int{{-64, -63, -32, -6, -5}, {31, 32, 33, 63, 64, 65, 128, 256}}, nil},
-		{[][]int{{1 << 32, 1<<32 + 1, 1 << 62}, {1}}, []int{1}},
+		// numbers that no link of a network has
+		{[][]int{{6}}, []int{6}},
+		{[][]int{{-1}}, []int{-1}},
+		{[][]int{{5, 6}}, []int{5, 6}},
+		{[][]int{{0, 7, 2}, {-3, 0}}, []int{-3, 0, 2, 7}},
+		{[][]int{{-1, 0, 6}, {5, 7}}, []int{-1, 0, 5, 6, 7}},
+		{[][]int{{6, 6}, {-1}, {6, -1, 6}}, []int{-1, 6}},
+		{[][]int{{64, 0}}, []int{0, 64}},
+		{[][]int{{-64, -63, -32, -6, -5}, {31, 32, 33, 63, 64, 65, 128, 256}}, []int{-64, -63, -32, -6, -5, 31, 32, 33, 63, 64, 65, 128, 256}},
+		{[][]int{{1 << 32, 1<<32 + 1, 1 << 62}, {1}}, []int{1, 1 << 32, 1<<32 + 1, 1 << 62}},
+		{[][]int{{math.MaxInt, 2}, {math.MinInt, 4, math.MaxInt}}, []int{math.MinInt, 2, 4, math.MaxInt}},
+		{[][]int{{math.MinInt}, {math.MinInt, math.MinInt}}, []int{math.MinInt}},
 	}
 	for _, c := range cases {
 		if got := impl.SeenLinks(along(c.paths...)); !slices.Equal(got, c.want) {
@@ -520,23 +525,41 @@ func TestSeenLinks(t *testing.T) {
 	}
 }
 
-func TestSeenLinksAreThoseOfSomeRow(t *testing.T) {
+func TestSeenLinksAreAllOfThePaths(t *testing.T) {
 	for _, l := range manyProbes() {
-		want := []int{}
-		for i := range maxLinks {
-			if slices.ContainsFunc(l, func(p impl.Probe) bool { return slices.Contains(p.Path, i) }) {
-				want = append(want, i)
+		seen := impl.SeenLinks(l)
+		for i, n := range seen {
+			if i > 0 && seen[i-1] >= n || !slices.ContainsFunc(l, func(p impl.Probe) bool { return slices.Contains(p.Path, n) }) {
+				t.Errorf("SeenLinks(%v) is %v", l, seen)
 			}
 		}
-		if got := impl.SeenLinks(l); !slices.Equal(got, want) {
-			t.Errorf("SeenLinks(%v) is %v, not %v", l, got, want)
+		for _, p := range l {
+			for _, n := range p.Path {
+				if !slices.Contains(seen, n) {
+					t.Errorf("SeenLinks(%v) is %v, without %d", l, seen, n)
+				}
+			}
+		}
+	}
+}
+
+// TestSeenLinksHaveColumns compares the links of a network with the columns of
+// the matrix.
+func TestSeenLinksHaveColumns(t *testing.T) {
+	for _, l := range manyProbes() {
+		seen := impl.SeenLinks(l)
+		for i := range maxLinks {
+			isOne := func(row []int) bool { return row[i] == 1 }
+			if slices.Contains(seen, i) != slices.ContainsFunc(impl.MatrixOf(l, maxLinks), isOne) {
+				t.Errorf("SeenLinks(%v) is %v", l, seen)
+			}
 		}
 	}
 }
 
 func TestSeenLinksOfManyProbes(t *testing.T) {
 	l := along(slices.Repeat([][]int{{3, 1}, {3}, {-9}}, 10000)...)
-	if got := impl.SeenLinks(append(l, probe(0, 0, 2))); !slices.Equal(got, []int{1, 2, 3}) {
+	if got := impl.SeenLinks(append(l, probe(0, 0, 2))); !slices.Equal(got, []int{-9, 1, 2, 3}) {
 		t.Errorf("SeenLinks of many probes is %v", got)
 	}
 }
@@ -675,6 +698,7 @@ func TestProbeFunctionsLeaveTheirArguments(t *testing.T) {
 			for _, f := range probeFunctions {
 				f.call(x, hosts, l)
 				f.call(x, hosts, l[:len(l)/2])
+				f.call(x, hosts, l[:min(len(l), 1)])
 				if !isNetUnchanged() || !areHostsUnchanged() || !areProbesUnchanged() {
 					t.Fatalf("%s changes an argument: %v, %v or %v", f.name, given, hosts, list)
 				}
